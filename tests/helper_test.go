@@ -1,0 +1,40 @@
+package tests
+
+import (
+	"math"
+	"math/rand/v2"
+	"slices"
+	"testing"
+
+	"loop.example/g01010/impl"
+)
+
+// notAmounts are integers that no amount may be, at its two limits and at the ends of int64.
+var notAmounts = []int64{-1, impl.MaxAmount + 1, math.MinInt64, math.MaxInt64, -impl.MaxAmount}
+
+// fixedRandom gives the same numbers in every run, so that a failure can be repeated.
+func fixedRandom() *rand.Rand { return rand.New(rand.NewPCG(1, 2)) }
+
+func repeated(n int64, times int) []int64 { return slices.Repeat([]int64{n}, times) }
+
+// inSpareRoom returns the list in front of other elements of its own memory, and a function that
+// tells whether all of this memory is as it was.
+func inSpareRoom(list []int64) ([]int64, func() bool) {
+	memory := append(slices.Clone(list), 71, 72, 73)
+	before := slices.Clone(memory)
+	return memory[:len(list)], func() bool { return slices.Equal(memory, before) }
+}
+
+func wantInts(t *testing.T, what string, got []int64, code int64, want []int64, wantCode int64) {
+	t.Helper()
+	if code != wantCode || !slices.Equal(got, want) {
+		t.Errorf("%s: got %v, code %d; want %v, code %d", what, got, code, want, wantCode)
+	}
+}
+
+func wantInt(t *testing.T, what string, got, code, want, wantCode int64) {
+	t.Helper()
+	if code != wantCode || got != want {
+		t.Errorf("%s: got %d, code %d; want %d, code %d", what, got, code, want, wantCode)
+	}
+}
