@@ -108,8 +108,7 @@ func AmountText(n int64) (string, int64) {
 		// The units of -5 are 0, which has no sign of its own.
 		sign, n = "-", -n
 	}
-	hundredths := strconv.FormatInt(100+n%100, 10)[1:]
-	return sign + strconv.FormatInt(n/100, 10) + "." + hundredths, ErrNone
+	return sign + strconv.FormatInt(n/100, 10) + "." + twoDigits(n%100), ErrNone
 }
 
 // ReadAmount returns the value with the AmountText s, and ErrNone. It returns 0 and ErrSyntax if
@@ -165,6 +164,9 @@ func leastOf[T cmp.Ordered](first, second T) T {
 	}
 	return first
 }
+
+// twoDigits writes a number from 0 to 99.
+func twoDigits(n int64) string { return strconv.FormatInt(100+n, 10)[1:] }
 
 func areAmounts(list []int64) bool {
 	for _, n := range list {
