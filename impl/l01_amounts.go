@@ -2,6 +2,7 @@ package impl
 
 import (
 	"cmp"
+	"math/bits"
 	"slices"
 	"strconv"
 )
@@ -76,12 +77,7 @@ func ProportionOf(amount int64, num int64, den int64) (int64, int64) {
 	if den == 0 {
 		return 0, ErrState
 	}
-	// Doubled, so that the half that is added stays an integer; 2 * MaxAmount * MaxAmount fits.
-	result := (2*amount*num + den) / (2 * den)
-	if !IsAmount(result) {
-		return 0, ErrLimit
-	}
-	return result, ErrNone
+	return nearestAmount(amount, num, den)
 }
 
 // SumAmounts returns the sum of amounts, and ErrNone. Errors: ErrRange if one is no amount;
@@ -163,6 +159,26 @@ func leastOf[T cmp.Ordered](first, second T) T {
 		return second
 	}
 	return first
+}
+
+// nearestAmount returns the nearest integer to amount * num / den, and ErrNone, or ErrLimit if that
+// is no amount. Only the product may be greater than int64 allows: no number is negative, den is not
+// 0, and amount and den can be doubled.
+func nearestAmount(amount, num, den int64) (int64, int64) {
+	// Doubled, so that the half that is added stays an integer.
+	double := 2 * uint64(den)
+	high, low := bits.Mul64(2*uint64(amount), uint64(num))
+	low, carry := bits.Add64(low, uint64(den), 0)
+	high += carry
+	if high >= double {
+		// Div64 would panic, because its result would not fit into 64 bits.
+		return 0, ErrLimit
+	}
+	result, _ := bits.Div64(high, low, double)
+	if result > MaxAmount {
+		return 0, ErrLimit
+	}
+	return int64(result), ErrNone
 }
 
 // twoDigits writes a number from 0 to 99.

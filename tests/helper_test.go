@@ -19,13 +19,18 @@ func repeated(n int64, times int) []int64 { return slices.Repeat([]int64{n}, tim
 
 // inSpareRoom returns the list in front of other elements of its own memory, and a function that
 // tells whether all of this memory is as it was.
-func inSpareRoom(list []int64) ([]int64, func() bool) {
-	memory := append(slices.Clone(list), 71, 72, 73)
+func inSpareRoom[T comparable](list []T, others ...T) ([]T, func() bool) {
+	memory := slices.Concat(list, others)
 	before := slices.Clone(memory)
 	return memory[:len(list)], func() bool { return slices.Equal(memory, before) }
 }
 
 func wantInts(t *testing.T, what string, got []int64, code int64, want []int64, wantCode int64) {
+	t.Helper()
+	wantList(t, what, got, code, want, wantCode)
+}
+
+func wantList[T comparable](t *testing.T, what string, got []T, code int64, want []T, wantCode int64) {
 	t.Helper()
 	if code != wantCode || !slices.Equal(got, want) {
 		t.Errorf("%s: got %v, code %d; want %v, code %d", what, got, code, want, wantCode)

@@ -518,8 +518,8 @@ func TestReadAmountOfAllShortTexts(t *testing.T) {
 }
 
 func TestAmountsKeepTheirArguments(t *testing.T) {
-	weights, weightsKept := inSpareRoom([]int64{3, 1, 2})
-	parts, partsKept := inSpareRoom([]int64{5, 2, 3})
+	weights, weightsKept := inSpareRoom([]int64{3, 1, 2}, 71, 72, 73)
+	parts, partsKept := inSpareRoom([]int64{5, 2, 3}, 71, 72, 73)
 	shared, _ := impl.ShareOut(10, weights)
 	impl.IsFairShare(10, weights, parts)
 	impl.SumAmounts(weights)
