@@ -25,6 +25,14 @@ func inSpareRoom[T comparable](list []T, others ...T) ([]T, func() bool) {
 	return memory[:len(list)], func() bool { return slices.Equal(memory, before) }
 }
 
+// overwrite writes own over a result and the memory behind it.
+func overwrite[T any](list []T, own T) {
+	behind := list[:cap(list)]
+	for i := range behind {
+		behind[i] = own
+	}
+}
+
 func wantInts(t *testing.T, what string, got []int64, code int64, want []int64, wantCode int64) {
 	t.Helper()
 	wantList(t, what, got, code, want, wantCode)

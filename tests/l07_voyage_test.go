@@ -1043,24 +1043,16 @@ func TestVoyageKeepsItsArguments(t *testing.T) {
 	impl.VoyageText(list)
 	for _, s := range []impl.Stop{stop("cork", 104, 105), stop("cork", 116, 116), stop("cork", 121, 149), stop("cork", 0, 1), stop("cork", 170, 180), stop("", 104, 105), stop("cork", 103, 105)} {
 		inserted, _ := impl.InsertRefuge(list, s)
-		overwrite(inserted)
+		overwrite(inserted, stop("own", -1, -1))
 	}
 	for index := range int64(len(list) + 1) {
 		for _, days := range []int64{0, 1, mostDelay, -1} {
 			delayed, _ := impl.DelayBy(list, index, days)
-			overwrite(delayed)
+			overwrite(delayed, stop("own", -1, -1))
 		}
 	}
 	if !kept() {
 		t.Error("an argument, or the memory behind it, has changed")
-	}
-}
-
-// overwrite changes a result, and the memory behind it.
-func overwrite(list []impl.Stop) {
-	behind := list[:cap(list)]
-	for i := range behind {
-		behind[i] = stop("own", -1, -1)
 	}
 }
 
