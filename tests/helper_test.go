@@ -1,6 +1,7 @@
 package tests
 
 import (
+	"iter"
 	"math"
 	"math/rand/v2"
 	"slices"
@@ -50,4 +51,44 @@ func wantInt(t *testing.T, what string, got, code, want, wantCode int64) {
 	if code != wantCode || got != want {
 		t.Errorf("%s: got %d, code %d; want %d, code %d", what, got, code, want, wantCode)
 	}
+}
+
+// changedTexts goes through s and all texts that differ from it in one place: a beginning or an end of it,
+// and those with one byte more, less, or in place of another.
+func changedTexts(s string) iter.Seq[string] {
+	return func(yield func(string) bool) {
+		for i := range len(s) + 1 {
+			texts := []string{s[:i], s[i:]}
+			for letter := range 256 {
+				put := string([]byte{byte(letter)})
+				texts = append(texts, s[:i]+put+s[i:])
+				if i < len(s) {
+					texts = append(texts, s[:i]+put+s[i+1:])
+				}
+			}
+			if i < len(s) {
+				texts = append(texts, s[:i]+s[i+1:])
+			}
+			for _, text := range texts {
+				if !yield(text) {
+					return
+				}
+			}
+		}
+	}
+}
+
+// textsUpTo returns all texts of up to a number of the letters.
+func textsUpTo(count int, letters ...string) []string {
+	texts := []string{""}
+	for range count {
+		longer := []string{""}
+		for _, s := range texts {
+			for _, letter := range letters {
+				longer = append(longer, s+letter)
+			}
+		}
+		texts = longer
+	}
+	return texts
 }

@@ -466,19 +466,8 @@ func TestReadDateOfChangedTexts(t *testing.T) {
 		wantDate(t, fmt.Sprintf("ReadDate %q", s), got, code, want, wantCode)
 	}
 	for _, s := range []string{"1970-01-01", "2069-12-31", "2024-10-04", "2024-02-29", "2023-02-28", "2000-11-30", "1999-09-09"} {
-		for i := range len(s) + 1 {
-			check(s[:i])
-			check(s[i:])
-			for letter := range 256 {
-				put := string([]byte{byte(letter)})
-				check(s[:i] + put + s[i:])
-				if i < len(s) {
-					check(s[:i] + put + s[i+1:])
-				}
-			}
-			if i < len(s) {
-				check(s[:i] + s[i+1:])
-			}
+		for changed := range changedTexts(s) {
+			check(changed)
 		}
 	}
 }

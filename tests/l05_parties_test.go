@@ -816,35 +816,16 @@ func checkReadParty(t *testing.T, s string) {
 
 // TestReadPartyOfAllShortTexts reads all texts of up to six of the bytes that matter.
 func TestReadPartyOfAllShortTexts(t *testing.T) {
-	texts := []string{""}
-	for length := 0; length <= 6; length++ {
-		longer := []string{}
-		for _, s := range texts {
-			checkReadParty(t, s)
-			for _, letter := range []string{"a", "z", "/", "-", "0", "4", "5", " "} {
-				longer = append(longer, s+letter)
-			}
-		}
-		texts = longer
+	for _, s := range textsUpTo(6, "a", "z", "/", "-", "0", "4", "5", " ") {
+		checkReadParty(t, s)
 	}
 }
 
 // TestReadPartyOfChangedTexts reads all texts that differ from that of a party in one place.
 func TestReadPartyOfChangedTexts(t *testing.T) {
 	for _, s := range []string{"boro/1/alba", "alba/0/-", "a/4/b", "a/0/-", "zzzzzz/4/aaaaaa", "aaaaaa/3/-", "ab/2/a", "a/2/ab"} {
-		for i := range len(s) + 1 {
-			checkReadParty(t, s[:i])
-			checkReadParty(t, s[i:])
-			for letter := range 256 {
-				put := string([]byte{byte(letter)})
-				checkReadParty(t, s[:i]+put+s[i:])
-				if i < len(s) {
-					checkReadParty(t, s[:i]+put+s[i+1:])
-				}
-			}
-			if i < len(s) {
-				checkReadParty(t, s[:i]+s[i+1:])
-			}
+		for changed := range changedTexts(s) {
+			checkReadParty(t, changed)
 		}
 	}
 }

@@ -893,19 +893,8 @@ func checkReadInterest(t *testing.T, s string) {
 // TestReadInterestOfChangedTexts reads all texts that differ from that of an interest in one place.
 func TestReadInterestOfChangedTexts(t *testing.T) {
 	for _, s := range []string{"corn/3/boro/50.00/0", "ship/0/alba/100.00/5", "a/0/b/0.00/60", "a/0/b/10000000.00/59", "zzzzzz/1/aaaaaa/10000000.00/0", "aaaaaa/2/zzzzzz/0.01/0", "a/3/a/9999999.99/0", "a/0/a/1.10/10"} {
-		for i := range len(s) + 1 {
-			checkReadInterest(t, s[:i])
-			checkReadInterest(t, s[i:])
-			for letter := range 256 {
-				put := string([]byte{byte(letter)})
-				checkReadInterest(t, s[:i]+put+s[i:])
-				if i < len(s) {
-					checkReadInterest(t, s[:i]+put+s[i+1:])
-				}
-			}
-			if i < len(s) {
-				checkReadInterest(t, s[:i]+s[i+1:])
-			}
+		for changed := range changedTexts(s) {
+			checkReadInterest(t, changed)
 		}
 	}
 }

@@ -991,20 +991,8 @@ func (days eventReader) check(t *testing.T, s string) {
 func TestReadEventOfChangedTexts(t *testing.T) {
 	reader := eventReader(newVoyageReader())
 	for _, s := range []string{"2024-10-04/0/corn/5.00/pr", "1970-01-01/0/a/0.00/-", "2069-12-31/6/zzzzzz/10000000.00/pvr", "1972-02-29/5/pvr/0.01/p", "2000-02-28/3/p/9999999.99/v", "1999-12-31/1/aaaaaa/10.10/r", "2024-10-04/2/b/1.00/pv", "2024-10-04/4/b/1.00/vr"} {
-		reader.check(t, s)
-		for i := range len(s) + 1 {
-			reader.check(t, s[:i])
-			reader.check(t, s[i:])
-			for letter := range 256 {
-				put := string([]byte{byte(letter)})
-				reader.check(t, s[:i]+put+s[i:])
-				if i < len(s) {
-					reader.check(t, s[:i]+put+s[i+1:])
-				}
-			}
-			if i < len(s) {
-				reader.check(t, s[:i]+s[i+1:])
-			}
+		for changed := range changedTexts(s) {
+			reader.check(t, changed)
 		}
 	}
 }
@@ -1012,17 +1000,7 @@ func TestReadEventOfChangedTexts(t *testing.T) {
 // TestReadEventOfAllLetters has all texts of up to four of the letters, and some others.
 func TestReadEventOfAllLetters(t *testing.T) {
 	reader := eventReader(newVoyageReader())
-	parts := []string{""}
-	for range 4 {
-		longer := []string{""}
-		for _, part := range parts {
-			for _, letter := range []string{"p", "v", "r", "-", "P", " ", "/", "x"} {
-				longer = append(longer, part+letter)
-			}
-		}
-		parts = longer
-	}
-	for _, part := range parts {
+	for _, part := range textsUpTo(4, "p", "v", "r", "-", "P", " ", "/", "x") {
 		reader.check(t, "2024-10-04/0/corn/5.00/"+part)
 		reader.check(t, "2024-10-04/0/corn/5.00"+part)
 	}
