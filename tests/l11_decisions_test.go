@@ -318,11 +318,16 @@ func TestDecideOtherFields(t *testing.T) {
 	}
 }
 
-func TestDecisionsByHand(t *testing.T) {
+// shapesAsLog has an event of each shape; their days do not fall, but there are too many of them for one log.
+func shapesAsLog() []impl.Event {
 	events := allShapes()
 	slices.SortStableFunc(events, func(a, b impl.Event) int { return int(a.Day - b.Day) })
+	return events
+}
+
+func TestDecisionsByHand(t *testing.T) {
 	for _, list := range rulebooks() {
-		for part := range slices.Chunk(events, impl.MaxEvents) {
+		for part := range slices.Chunk(shapesAsLog(), impl.MaxEvents) {
 			checkLog(t, list, part)
 		}
 		for _, log := range logs() {
